@@ -13,10 +13,10 @@ const (
 	whole    = 1000 // thousandths of what a take brings
 )
 
-// commands has for each first word of a line what does such lines.
+// commands has for each first word of a line what does such lines. It is filled before main, as the document's section 'Ways' asks; but no result is computed with it, so that all results follow from the arguments and the book alone (rule 3b of LANGUAGE.md): lines are done by commandOf.
 var commands = commandTable()
 
-// commandTable returns the commands. Each of them makes its checks in the order of P14.1, before it changes anything.
+// commandTable returns, for each first word of a line, what does such lines. Each command makes its checks in the order of P14.1, before it changes anything.
 func commandTable() map[string]func(*Book, []string) {
 	return map[string]func(*Book, []string){
 		"cur":     (*Book).cur,
@@ -29,11 +29,16 @@ func commandTable() map[string]func(*Book, []string) {
 	}
 }
 
+// commandOf returns what does the lines with a first word, or nil if it is none of the table.
+func commandOf(first string) func(*Book, []string) {
+	return commandTable()[first]
+}
+
 // do does a line, or raises its error and changes nothing.
 func (b *Book) do(text string) {
 	raiseIf(len(text) > MaxLine, api.ErrLong)
 	words := wordsOf(text)
-	command := commands[words[0]]
+	command := commandOf(words[0])
 	raiseIf(command == nil, api.ErrKind)
 	command(b, words)
 }
